@@ -353,6 +353,11 @@ func TestNames(t *testing.T) {
 		`\\nx`: "", `\\\nx`: "n:x", `\e\nx`: "n:x", `\.\nx`: "n:x", `\fB\*s`: "*:s", `\f\*s`: "*:s", `\"\nx`: "", `\nx\"\ny`: "n:x", `\\"\nx`: "n:x",
 		`\w'a'`: "", `\w'\nx\ny'\nz`: "n:x n:y n:z", `\w'\nx`: "n:x", `\w\nx`: "n:x", `\w'\w"\nx"\ny'\nz`: "n:x n:y n:z", `\w'a\"\nx'\ny`: "",
 		`\n`: "", `\n([\nx`: "n:x", `\n[\*x`: "*:x", `\n[a \*x]`: "*:x", `\n\\nx`: `n:\ n:x`, `\n[\nx]`: `n:\nx`, `\n(\nx`: `n:\n`, `\n]`: "n:]", `\*+\*-\n++\nx`: "n:x", "a\n" + `\nx`: "n:x", `\`: "", `\nx\`: "n:x",
+		// An escape in the text of \w has no byte behind that text's end.
+		`\w'\n'x'`: "", `\wa\*(ab`: "", `\w'\*[a'b]`: "", `\w"\$"1`: "", `\w'\w"\n"x"'`: "", `\w'\n+'x`: "", `\w'\n(x'y`: "", `\w'\w"\n'x"`: "", `\w'\n'\nx`: "n:x", `\w"\"\nx`: "n:x", `\w"\"\"\nx`: "", `\w'\'\$1`: "$:1", `\w'\w'\ny`: "n:y", `\w'\\'\ny`: "n:y", `\w'\w"\nx"'\ny`: "n:x n:y",
+		`\w'\w"\"'\ny`: "n:y", `\w'\w"a\""'\ny`: "n:y", `\w'\w(a\"('\ny`: "", `\w'\"'\ny`: "", `\w'\nx\"'\ny`: "n:x",
+		// Without an end it is no escape, and has no text; so has a quote that is a \.
+		`\w'\n"x`: `n:"`, `\w"\n'x`: "n:'", `\w\n\x`: `n:\`, `\nw'\n'x`: "n:w n:'", `\\w'\n'x`: "n:'", `\ew'\n'x`: "n:'", `\w'\*(ab`: "*:ab",
 	} {
 		if names := Names(s); strings.Join(names, " ") != want {
 			t.Errorf("Names(%q) = %q; want %q", s, names, want)

@@ -43,11 +43,39 @@ func modelExpand(s string, copy bool, look Look) string {
 	return out
 }
 
-// modelNames is which names the model asks for in copy mode, where nothing is put ahead.
+// modelNames reads the names by the document's rules; it cuts the text of \w off ahead of reading in it, and gives "" where \" ends all.
 func modelNames(s string) []string {
 	var names []string
-	modelExpand(s, true, func(kind byte, name string, step int) string {
-		names = append(names, string(rune(kind))+":"+name)
+	for s != "" {
+		m := namedEscape.FindStringSubmatch(s)
+		w := strings.HasPrefix(s, `\w`) && len(s) > 2 && s[2] != '\\'
+		switch {
+		case strings.HasPrefix(s, `\"`):
+			return append(names, "")
+		case m != nil:
+			names, s = append(names, m[1]+m[3]+":"+m[4]+m[5]+m[6]), s[len(m[0]):]
+		case w && strings.Contains(s[3:], s[2:3]):
+			text, rest, _ := strings.Cut(s[3:], s[2:3])
+			names, s = append(names, modelNames(text)...), rest
+			if slices.Contains(names, "") {
+				return names
+			}
+		case s[0] == '\\' && len(s) > 1 && strings.IndexByte("n*$w", s[1]) < 0:
+			s = s[2:]
+		default:
+			s = s[1:]
+		}
+	}
+	return names
+}
+
+// namesAsked is which names Expand asks for where each answer is empty, so that nothing is put ahead. In a text of \w a \" ends just that text.
+func namesAsked(s string) []string {
+	var names []string
+	Expand(s, false, func(kind byte, name string, step int) string {
+		if kind != 'w' {
+			names = append(names, string(rune(kind))+":"+name)
+		}
 		return ""
 	})
 	return names
@@ -92,8 +120,15 @@ func checkModel(t *testing.T, s string) {
 	if Plain(s) != plain {
 		t.Fatalf("Plain(%q) is %t", s, !plain)
 	}
-	if names := Names(s); !slices.Equal(names, modelNames(s)) {
-		t.Fatalf("Names(%q) = %q; want %q", s, names, modelNames(s))
+	want := modelNames(s)
+	if n := len(want); n > 0 && want[n-1] == "" {
+		want = want[:n-1]
+	}
+	if names := Names(s); !slices.Equal(names, want) {
+		t.Fatalf("Names(%q) = %q; want %q", s, names, want)
+	}
+	if asked := namesAsked(s); !strings.Contains(s, `\"`) && !slices.Equal(want, asked) {
+		t.Fatalf("Names(%q) = %q; asked are %q", s, want, asked)
 	}
 	checkProtected(t, s)
 }
